@@ -477,30 +477,39 @@ func TestInvalidWishesHaveFixedResults(t *testing.T) {
 	}
 }
 
-// wantStrictPartialOrder checks the codes of all pairs, and with ranks that nothing is unrelated.
-func wantStrictPartialOrder(t *testing.T, w impl.Wish, codes [][]int) {
+// wantStrictPartialOrder checks the codes of all pairs, which came from a wish or an expression.
+func wantStrictPartialOrder(t *testing.T, from any, codes [][]int) {
 	t.Helper()
 	for a := range codes {
 		if codes[a][a] != impl.Equal {
-			t.Errorf("%v: %d compares with itself as %d", w, a, codes[a][a])
+			t.Errorf("%v: %d compares with itself as %d", from, a, codes[a][a])
 		}
 		for b := range codes {
 			back := codes[a][b]
 			if back == impl.Better || back == impl.Worse {
 				back = -back
 			}
-			if codes[b][a] != back || back == impl.Unrelated && w.Kind != impl.WishOrder {
-				t.Errorf("%v: %d and %d compare as %d and %d", w, a, b, codes[a][b], codes[b][a])
+			if codes[b][a] != back {
+				t.Errorf("%v: %d and %d compare as %d and %d", from, a, b, codes[a][b], codes[b][a])
 			}
 			for c := range codes {
 				if codes[a][b] == impl.Better && codes[b][c] == impl.Better && codes[a][c] != impl.Better {
-					t.Errorf("%v: %d is better than %d, and this than %d", w, a, b, c)
+					t.Errorf("%v: %d is better than %d, and this than %d", from, a, b, c)
 				}
 				if codes[a][b] == impl.Equal && codes[a][c] != codes[b][c] {
-					t.Errorf("%v: %d and %d are equal, but not for %d", w, a, b, c)
+					t.Errorf("%v: %d and %d are equal, but not for %d", from, a, b, c)
 				}
 			}
 		}
+	}
+}
+
+// wantOrderOfWish checks also that with ranks nothing is unrelated.
+func wantOrderOfWish(t *testing.T, w impl.Wish, codes [][]int) {
+	t.Helper()
+	wantStrictPartialOrder(t, w, codes)
+	if w.Kind != impl.WishOrder && slices.Contains(slices.Concat(codes...), impl.Unrelated) {
+		t.Errorf("%v: values are unrelated in spite of their ranks", w)
 	}
 }
 
@@ -512,7 +521,7 @@ func TestWishesAreStrictPartialOrdersOfValues(t *testing.T) {
 				codes[a] = append(codes[a], impl.CompareValues(w, a, b))
 			}
 		}
-		wantStrictPartialOrder(t, w, codes)
+		wantOrderOfWish(t, w, codes)
 	}
 }
 
@@ -526,7 +535,7 @@ func TestWishesAreStrictPartialOrdersOfItems(t *testing.T) {
 					codes[a] = append(codes[a], impl.CompareItems(w, x, y))
 				}
 			}
-			wantStrictPartialOrder(t, w, codes)
+			wantOrderOfWish(t, w, codes)
 		}
 	}
 }
