@@ -675,16 +675,21 @@ func TestHalvesOfManyCallsAtOnce(t *testing.T) {
 	}
 }
 
-func TestHalvesLeaveNothingRunning(t *testing.T) {
-	before := runtime.NumGoroutine()
-	for range 200 {
-		impl.DivideBest(twins(impl.MaxItems, 3, 0, 9), rivalOrder())
-	}
-	// One that has done its work may take a moment to end.
+// wantNoMoreRunning waits for goroutines to end: one that has done its work may take a moment.
+func wantNoMoreRunning(t *testing.T, before int) {
+	t.Helper()
 	for wait := 0; runtime.NumGoroutine() > before; wait++ {
 		if wait == 2000 {
 			t.Fatalf("%d goroutines ran before the calls, %d run after them", before, runtime.NumGoroutine())
 		}
 		time.Sleep(time.Millisecond)
 	}
+}
+
+func TestHalvesLeaveNothingRunning(t *testing.T) {
+	before := runtime.NumGoroutine()
+	for range 200 {
+		impl.DivideBest(twins(impl.MaxItems, 3, 0, 9), rivalOrder())
+	}
+	wantNoMoreRunning(t, before)
 }
